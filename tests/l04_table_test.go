@@ -221,6 +221,13 @@ func setCircle(b board, ports []int, circle []int, to int) {
 	}
 }
 
+// turnedBack is a table with which packets for a node go to and fro between the two ends of a channel.
+func turnedBack(b board, channel int, to int) []int {
+	ports := rowsFirst(b.mesh.Grid)
+	setCircle(b, ports, []int{channel / 4, b.neighbors[channel/4][channel%4]}, to)
+	return ports
+}
+
 // alongCircle is a table that leads each packet around a circle of all nodes.
 func alongCircle(b board, circle []int) []int {
 	ports := make([]int, b.nodes*b.nodes)
@@ -422,16 +429,14 @@ func TestCirclesOfTwoNodes(t *testing.T) {
 	for _, g := range validGrids() {
 		b := boardOf(g)
 		for _, channel := range b.channels {
-			pair := []int{channel / 4, b.neighbors[channel/4][channel%4]}
 			for to := range b.nodes {
-				ports := rowsFirst(g)
-				setCircle(b, ports, pair, to)
+				ports := turnedBack(b, channel, to)
 				wantVerdict(t, b.mesh, ports, notValid)
 				for from := range b.nodes {
 					wantWalk(t, b.mesh, ports, from, to, b.follow(ports, from, to))
 				}
-				wantWalk(t, b.mesh, ports, pair[0], to, nil)
-				wantWalk(t, b.mesh, ports, pair[1], to, nil)
+				wantWalk(t, b.mesh, ports, channel/4, to, nil)
+				wantWalk(t, b.mesh, ports, b.neighbors[channel/4][channel%4], to, nil)
 			}
 		}
 	}
