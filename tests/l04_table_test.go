@@ -262,6 +262,131 @@ func grownTable(b board, r *rand.Rand) ([]int, bool) {
 	return ports, true
 }
 
+// noTables visits tables that are not valid, or whose mesh is not valid.
+func noTables(visit func(m impl.Mesh, ports []int)) {
+	tablesThatTurnBack(visit)
+	tablesOfAWrongSize(visit)
+	tablesWithPortsThatDoNotExist(visit)
+	tablesOfMeshesThatAreNotValid(visit)
+}
+
+// tablesThatTurnBack visits tables with walks without end, each for one destination and between two neighbors.
+func tablesThatTurnBack(visit func(m impl.Mesh, ports []int)) {
+	for _, g := range validGrids() {
+		b := boardOf(g)
+		for _, channel := range b.channels {
+			for to := range b.nodes {
+				visit(b.mesh, turnedBack(b, channel, to))
+			}
+		}
+	}
+}
+
+func tablesOfAWrongSize(visit func(m impl.Mesh, ports []int)) {
+	for _, g := range validGrids() {
+		b := boardOf(g)
+		for size := range 300 {
+			if size != b.nodes*b.nodes {
+				visit(b.mesh, slices.Repeat([]int{impl.Local}, size))
+			}
+		}
+		visit(b.mesh, nil)
+		visit(b.mesh, append(rowsFirst(g), impl.Local))
+		visit(b.mesh, rowsFirst(g)[1:])
+	}
+}
+
+func tablesWithPortsThatDoNotExist(visit func(m impl.Mesh, ports []int)) {
+	for _, g := range validGrids() {
+		b := boardOf(g)
+		for _, port := range without(channelNumbers(), []int{0, 1, 2, 3, 4}) {
+			for _, i := range []int{0, b.nodes - 1, b.nodes*b.nodes - 1} {
+				ports := rowsFirst(g)
+				ports[i] = port
+				visit(b.mesh, ports)
+			}
+		}
+	}
+}
+
+func tablesOfMeshesThatAreNotValid(visit func(m impl.Mesh, ports []int)) {
+	for _, g := range invalidGrids() {
+		for _, size := range []int{0, 1, 4, 16, 256} {
+			visit(impl.Mesh{Grid: g}, slices.Repeat([]int{impl.Local}, size))
+		}
+	}
+	for _, g := range validGrids() {
+		for _, channel := range without(channelNumbers(), channelsOf(g)) {
+			visit(impl.Mesh{Grid: g, Broken: []int{channel}}, rowsFirst(g))
+		}
+		for _, channel := range channelsOf(g) {
+			visit(impl.Mesh{Grid: g, Broken: []int{channel, channel}}, rowsFirst(g))
+		}
+	}
+	// The table needs neither of the two channels, whose order alone is wrong.
+	visit(impl.Mesh{Grid: impl.Grid{Width: 2, Height: 2}, Broken: []int{7, 2}}, clockwise())
+}
+
+// manyTables visits tables of valid meshes, of which some are valid and some are not.
+func manyTables(visit func(b board, ports []int)) {
+	tablesWithOneOtherPort(visit)
+	tablesWithBrokenChannels(visit)
+	tablesAtRandom(visit)
+	for _, g := range validGrids() {
+		visit(boardOf(g), rowsFirst(g))
+		visit(boardOf(g), alongSnake(g))
+	}
+	for _, g := range circleGrids() {
+		visit(boardOf(g), alongCircle(boardOf(g), circleOf(g)))
+		visit(boardOf(g), alongCircle(boardOf(g), backward(circleOf(g))))
+	}
+}
+
+func tablesWithOneOtherPort(visit func(b board, ports []int)) {
+	for _, g := range []impl.Grid{{Width: 2, Height: 2}, {Width: 3, Height: 2}, {Width: 2, Height: 3}, {Width: 3, Height: 3}} {
+		b := boardOf(g)
+		for _, ports := range [][]int{rowsFirst(g), alongSnake(g)} {
+			for i := range ports {
+				for port := -1; port <= 5; port++ {
+					other := slices.Clone(ports)
+					other[i] = port
+					visit(b, other)
+				}
+			}
+		}
+	}
+}
+
+func tablesWithBrokenChannels(visit func(b board, ports []int)) {
+	square := impl.Grid{Width: 2, Height: 2}
+	for _, broken := range subsets(channelsOf(square)) {
+		b := boardOf(square, broken...)
+		for _, ports := range [][]int{rowsFirst(square), alongSnake(square), clockwise(), counterclockwise()} {
+			visit(b, ports)
+		}
+	}
+	for _, g := range validGrids() {
+		visit(boardOf(g, channelsOf(g)...), rowsFirst(g))
+	}
+}
+
+// tablesAtRandom visits tables that turn in every direction, on walks of every length.
+func tablesAtRandom(visit func(b board, ports []int)) {
+	r := rand.New(rand.NewPCG(7, 70))
+	for _, g := range validGrids() {
+		for range 40 {
+			b := boardOf(g, brokenAt(r, g, 12)...)
+			ports, ok := grownTable(b, r)
+			if !ok {
+				continue
+			}
+			visit(b, slices.Clone(ports))
+			ports[r.IntN(len(ports))] = r.IntN(7) - 1
+			visit(b, ports)
+		}
+	}
+}
+
 // subsets returns all subsets of a list, each in the order of the list.
 func subsets(list []int) [][]int {
 	all := [][]int{nil}

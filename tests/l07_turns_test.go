@@ -1,7 +1,6 @@
 package tests
 
 import (
-	"math/rand/v2"
 	"slices"
 	"testing"
 
@@ -287,126 +286,25 @@ func TestAllowsTurnsForAllSubsets(t *testing.T) {
 	}
 }
 
-func TestTurnsOfTablesWithOneOtherPort(t *testing.T) {
-	for _, g := range []impl.Grid{{Width: 2, Height: 2}, {Width: 3, Height: 2}, {Width: 2, Height: 3}, {Width: 3, Height: 3}} {
-		b := boardOf(g)
-		for _, ports := range [][]int{rowsFirst(g), alongSnake(g)} {
-			for i := range ports {
-				for port := -1; port <= 5; port++ {
-					other := slices.Clone(ports)
-					other[i] = port
-					wantTurnsOf(t, b, other)
-				}
-			}
-		}
-	}
+func TestTurnsOfTablesThatAreNotValid(t *testing.T) {
+	noTables(func(m impl.Mesh, ports []int) { wantNoTurns(t, m, ports) })
 }
 
-// Each table turns back between two neighbors, for one destination, so that its walks have no end.
-func TestTablesThatTurnBack(t *testing.T) {
-	for _, g := range validGrids() {
-		b := boardOf(g)
-		for _, channel := range b.channels {
-			for to := range b.nodes {
-				wantNoTurns(t, b.mesh, turnedBack(b, channel, to))
-			}
-		}
-	}
-}
-
-func TestTurnsOfTablesOfAWrongSize(t *testing.T) {
-	for _, g := range validGrids() {
-		b := boardOf(g)
-		for size := range 300 {
-			if size != b.nodes*b.nodes {
-				wantNoTurns(t, b.mesh, slices.Repeat([]int{impl.Local}, size))
-			}
-		}
-		wantNoTurns(t, b.mesh, nil)
-		wantNoTurns(t, b.mesh, append(rowsFirst(g), impl.Local))
-		wantNoTurns(t, b.mesh, rowsFirst(g)[1:])
-	}
-}
-
-func TestTurnsOfTablesWithPortsThatDoNotExist(t *testing.T) {
-	for _, g := range validGrids() {
-		b := boardOf(g)
-		for _, port := range without(channelNumbers(), []int{0, 1, 2, 3, 4}) {
-			for _, i := range []int{0, b.nodes - 1, b.nodes*b.nodes - 1} {
-				ports := rowsFirst(g)
-				ports[i] = port
-				wantNoTurns(t, b.mesh, ports)
-			}
-		}
-	}
-}
-
-func TestTurnsOfMeshesThatAreNotValid(t *testing.T) {
-	for _, g := range invalidGrids() {
-		for _, size := range []int{0, 1, 4, 16, 256} {
-			wantNoTurns(t, impl.Mesh{Grid: g}, slices.Repeat([]int{impl.Local}, size))
-		}
-	}
-	for _, g := range validGrids() {
-		for _, channel := range without(channelNumbers(), channelsOf(g)) {
-			wantNoTurns(t, impl.Mesh{Grid: g, Broken: []int{channel}}, rowsFirst(g))
-		}
-		for _, channel := range channelsOf(g) {
-			wantNoTurns(t, impl.Mesh{Grid: g, Broken: []int{channel, channel}}, rowsFirst(g))
-		}
-	}
-	// The table needs neither of the two channels, whose order alone is wrong.
-	square := impl.Grid{Width: 2, Height: 2}
-	wantTurning(t, impl.Mesh{Grid: square, Broken: []int{2, 7}}, clockwise(), []int{1, 6, 11, 12})
-	wantNoTurns(t, impl.Mesh{Grid: square, Broken: []int{7, 2}}, clockwise())
-}
-
-func TestTurnsOfMeshesWithBrokenChannels(t *testing.T) {
-	square := impl.Grid{Width: 2, Height: 2}
-	for _, broken := range subsets(channelsOf(square)) {
-		b := boardOf(square, broken...)
-		for _, ports := range [][]int{rowsFirst(square), alongSnake(square), clockwise(), counterclockwise()} {
-			wantTurnsOf(t, b, ports)
-		}
-	}
-	for _, g := range validGrids() {
-		b := boardOf(g, channelsOf(g)...)
-		wantTurnsOf(t, b, rowsFirst(g))
-	}
-}
-
-// Circles, snakes and trees that grow at random turn in every direction, on walks of every length.
 func TestTurnsOfManyTables(t *testing.T) {
-	r := rand.New(rand.NewPCG(7, 70))
 	used := map[int]int{}
-	for _, g := range validGrids() {
-		wantTurnsOf(t, boardOf(g), alongSnake(g))
-		for range 40 {
-			b := boardOf(g, brokenAt(r, g, 12)...)
-			ports, ok := grownTable(b, r)
-			if !ok {
-				continue
-			}
-			wantTurnsOf(t, b, ports)
-			for _, turn := range impl.TurnsOf(b.mesh, impl.Table{Ports: ports}) {
-				used[turn]++
-			}
-			ports[r.IntN(len(ports))] = r.IntN(7) - 1
-			wantTurnsOf(t, b, ports)
+	manyTables(func(b board, ports []int) {
+		wantTurnsOf(t, b, ports)
+		for _, turn := range impl.TurnsOf(b.mesh, impl.Table{Ports: ports}) {
+			used[turn]++
 		}
-	}
-	for _, g := range circleGrids() {
-		b := boardOf(g)
-		circle := circleOf(g)
-		wantTurnsOf(t, b, alongCircle(b, circle))
-		slices.Reverse(circle)
-		wantTurnsOf(t, b, alongCircle(b, circle))
-	}
+	})
 	for turn := range 16 {
 		if used[turn] > 0 != slices.Contains(turnsOfRules[impl.RuleMixed], turn) {
 			t.Errorf("the turn %d was used by %d valid tables", turn, used[turn])
 		}
 	}
+	square := impl.Grid{Width: 2, Height: 2}
+	wantTurning(t, impl.Mesh{Grid: square, Broken: []int{2, 7}}, clockwise(), []int{1, 6, 11, 12})
 }
 
 func TestTurnFunctionsKeepTheirArguments(t *testing.T) {
