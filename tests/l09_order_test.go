@@ -48,6 +48,41 @@ func circle(channels ...int) []impl.Depend {
 	return chain(append(slices.Clone(channels), channels[0])...)
 }
 
+// shortLists visits all lists of three channels, and those of four channels of which none depends on itself.
+func shortLists(visit func(channels []int, list []impl.Depend)) {
+	for _, channels := range [][]int{{0, 1, 2}, {2, 1, 0}, {5, 127, 64}, {0, 2, 3, 127}} {
+		var all []impl.Depend
+		for _, from := range channels {
+			for _, to := range channels {
+				if from != to || len(channels) == 3 {
+					all = append(all, impl.Depend{From: from, To: to})
+				}
+			}
+		}
+		for _, list := range choices(together(all)) {
+			visit(channels, list)
+		}
+	}
+}
+
+// dependsOfTables visits the dependencies of those of manyTables that are valid.
+func dependsOfTables(visit func(b board, ports []int, list []impl.Depend)) {
+	manyTables(func(b board, ports []int) {
+		if b.verdictOf(ports).ok {
+			visit(b, ports, b.dependsOf(ports))
+		}
+	})
+}
+
+// dependsOfRules visits the dependencies of all standard tables.
+func dependsOfRules(visit func(g impl.Grid, rule int, list []impl.Depend)) {
+	for _, g := range validGrids() {
+		for _, rule := range standardRules {
+			visit(g, rule, boardOf(g).dependsOf(tableOfRule(g, rule)))
+		}
+	}
+}
+
 // isCyclic takes away, again and again, the elements that lead to a channel from which none leads on; only a cycle stays.
 func isCyclic(list []impl.Depend) bool {
 	for {
@@ -280,33 +315,16 @@ func TestCyclesThatAreFoundLate(t *testing.T) {
 }
 
 func TestOrdersOfAllShortLists(t *testing.T) {
-	for _, channels := range [][]int{{0, 1, 2}, {2, 1, 0}, {5, 127, 64}} {
-		var all []impl.Depend
-		for _, from := range channels {
-			for _, to := range channels {
-				all = append(all, impl.Depend{From: from, To: to})
-			}
-		}
-		for _, list := range choices(together(all)) {
-			wantOrder(t, list)
-		}
-	}
-	var all []impl.Depend
-	for _, from := range []int{0, 2, 3, 127} {
-		for _, to := range without([]int{0, 2, 3, 127}, []int{from}) {
-			all = append(all, impl.Depend{From: from, To: to})
-		}
-	}
 	orders := 0
-	for _, list := range choices(all) {
+	shortLists(func(channels []int, list []impl.Depend) {
 		wantOrder(t, list)
 		if _, ok := impl.OrderOf(list); ok {
 			orders++
 		}
-	}
-	// So many of the graphs of four points have no cycle.
-	if orders != 543 {
-		t.Errorf("%d of the lists of four channels have an order; want 543", orders)
+	})
+	// So many of the graphs of three and of four points have no cycle.
+	if orders != 3*25+543 {
+		t.Errorf("%d of the lists have an order; want %d", orders, 3*25+543)
 	}
 }
 
@@ -465,11 +483,7 @@ func TestOrdersOfTables(t *testing.T) {
 	wantNoOrder(t, orderOf(counterclockwise()))
 
 	found, missing := 0, 0
-	manyTables(func(b board, ports []int) {
-		if !b.verdictOf(ports).ok {
-			return
-		}
-		list := b.dependsOf(ports)
+	dependsOfTables(func(b board, ports []int, list []impl.Depend) {
 		wantOrder(t, list)
 		ranks, ok := impl.OrderOf(list)
 		if !ok {
@@ -490,17 +504,13 @@ func TestOrdersOfTables(t *testing.T) {
 
 // The rules that lack some turns have an order on each grid; packets of two classes have one, too.
 func TestOrdersOfStandardTables(t *testing.T) {
-	for _, g := range validGrids() {
-		for _, rule := range standardRules {
-			x, _ := impl.StandardTable(g, rule)
-			list := impl.DependsOf(impl.Mesh{Grid: g}, x)
-			wantOrder(t, list)
-			wantOrder(t, together(list, impl.ShiftDepends(list, 64)))
-			if _, ok := impl.OrderOf(list); !ok && rule != impl.RuleMixed {
-				t.Errorf("the rule %d has no order in %v", rule, g)
-			}
+	dependsOfRules(func(g impl.Grid, rule int, list []impl.Depend) {
+		wantOrder(t, list)
+		wantOrder(t, together(list, impl.ShiftDepends(list, 64)))
+		if _, ok := impl.OrderOf(list); !ok && rule != impl.RuleMixed {
+			t.Errorf("the rule %d has no order in %v", rule, g)
 		}
-	}
+	})
 }
 
 func TestRankRuleExamples(t *testing.T) {
