@@ -572,13 +572,15 @@ func TestVerdictFunctionsKeepTheirArguments(t *testing.T) {
 	}
 }
 
+// overwrite fills a list up to its capacity.
+func overwrite(list []int) {
+	for i := range list[:cap(list)] {
+		list[:cap(list)][i] = -7
+	}
+}
+
 // Results are overwritten up to their capacity, which must be seen neither in the arguments nor in later results.
 func TestAVerdictIsNewMemory(t *testing.T) {
-	overwrite := func(list []int) {
-		for i := range list[:cap(list)] {
-			list[:cap(list)][i] = -7
-		}
-	}
 	for _, x := range allMatters() {
 		ports, broken := slices.Clone(x.ports), slices.Clone(x.mesh.Broken)
 		first, second := impl.CheckTable(x.mesh, impl.Table{Ports: x.ports}), impl.CheckTable(x.mesh, impl.Table{Ports: x.ports})
