@@ -678,10 +678,17 @@ func TestNoRequestOfNoPort(t *testing.T) {
 	}
 }
 
-// Each condition of NetOk is broken in turn, far from the node that is asked where that is possible.
-func TestRequestsOfNetsThatAreNotValid(t *testing.T) {
-	nodes, inputs, ports := []int{-1, 0, 3}, []int{0, 5, 8, 9}, []int{-1, impl.North, impl.East, impl.South, impl.West, impl.Local}
-	wantSilent(t, "the zero Net", impl.Net{}, nodes, inputs, ports)
+// busyWithFollower is a busy network in which a flit in the middle of a packet goes from the port South of node 0 to its processor.
+func busyWithFollower() impl.Net {
+	n := busyNet(impl.Grid{Width: 3, Height: 2})
+	n.Buffers[5] = []impl.Flit{follower(0, 1)}
+	n.Owners[9] = impl.South
+	return n
+}
+
+// netsThatAreNotValid visits busy networks for which one condition of NetOk is broken in turn, far from node 0 where that is possible.
+func netsThatAreNotValid(visit func(what string, n impl.Net)) {
+	visit("the zero Net", impl.Net{})
 	for what, fault := range map[string]func(n *impl.Net){
 		"a grid without nodes":          func(n *impl.Net) { n.Mesh.Grid = impl.Grid{} },
 		"a grid with negative sides":    func(n *impl.Net) { n.Mesh.Grid = impl.Grid{Width: -2, Height: -3} },
@@ -720,14 +727,20 @@ func TestRequestsOfNetsThatAreNotValid(t *testing.T) {
 		"a negative time":                 func(n *impl.Net) { n.Time = -1 },
 		"a time after the end":            func(n *impl.Net) { n.Time = 1000001 },
 	} {
-		n := busyNet(impl.Grid{Width: 3, Height: 2})
-		n.Buffers[5] = []impl.Flit{follower(0, 1)}
-		n.Owners[9] = impl.South
-		wantRequests(t, n, 0, impl.Local, 0, 2, 4, 5, 6, 8)
-		wantRequests(t, n, 3, impl.Local, 0, 1, 2, 3, 4, 5, 6, 7, 8, 9)
+		n := busyWithFollower()
 		fault(&n)
-		wantSilent(t, what, n, nodes, inputs, ports)
+		visit(what, n)
 	}
+}
+
+func TestRequestsOfNetsThatAreNotValid(t *testing.T) {
+	good := busyWithFollower()
+	wantRequests(t, good, 0, impl.Local, 0, 2, 4, 5, 6, 8)
+	wantRequests(t, good, 3, impl.Local, 0, 1, 2, 3, 4, 5, 6, 7, 8, 9)
+	nodes, inputs, ports := []int{-1, 0, 3}, []int{0, 5, 8, 9}, []int{-1, impl.North, impl.East, impl.South, impl.West, impl.Local}
+	netsThatAreNotValid(func(what string, n impl.Net) {
+		wantSilent(t, what, n, nodes, inputs, ports)
+	})
 	// The last time is a valid one, although nothing moves then.
 	n := busyNet(impl.Grid{Width: 3, Height: 2})
 	n.Time = 1000000
